@@ -97,27 +97,16 @@ func RangeParted(l []Row, cuts []string) ([]Part, bool) {
 }
 
 func CutsOf(l []Row, n int64) ([]string, bool) {
-	if !RowsOk(l) || !partsOk(n) {
+	rows, ok := Sorted(l)
+	if !ok || !partsOk(n) {
 		return nil, false
 	}
 	var cuts []string
-	if len(l) == 0 {
+	if len(rows) == 0 {
 		return cuts, true
 	}
-	keys := sortedKeys(l)
 	for i := int64(1); i < n; i++ {
-		cuts = append(cuts, keys[i*int64(len(keys))/n])
+		cuts = append(cuts, rows[i*int64(len(rows))/n].Key)
 	}
 	return slices.Compact(cuts), true
-}
-
-// sortedKeys returns the keys of the sorted rows: rows are ordered by Key
-// first, so the keys alone decide.
-func sortedKeys(l []Row) []string {
-	keys := make([]string, 0, len(l))
-	for _, r := range l {
-		keys = append(keys, r.Key)
-	}
-	slices.Sort(keys)
-	return keys
 }

@@ -229,6 +229,25 @@ func randomCuts(n int) []string {
 	return cuts
 }
 
+// testSortedParts checks that the parts, each sorted, form all rows, sorted.
+func testSortedParts(t *testing.T, parts []impl.Part, l []impl.Row) {
+	t.Helper()
+	var all []impl.Row
+	for _, p := range parts {
+		rows, ok := impl.Sorted(p.Rows)
+		if !ok {
+			t.Fatal("a part is rejected")
+		}
+		all = append(all, rows...)
+	}
+	want, ok := impl.Sorted(l)
+	if !ok || !impl.SortedOk(all) {
+		t.Fatal("not sorted", all)
+	}
+	sameRows(t, "sorted parts", all, want)
+	sameRows(t, "sorted parts", all, sortedRows(l))
+}
+
 func TestPromise2RangesFormAllRows(t *testing.T) {
 	r := newRand()
 	for n := range maxParts {
@@ -240,11 +259,7 @@ func TestPromise2RangesFormAllRows(t *testing.T) {
 				t.Fatal("rejected")
 			}
 			testParts(t, parts, l, int64(n+1), func(key string) int64 { return impl.RangeOf(cuts, key) })
-			var all []impl.Row
-			for _, p := range parts {
-				all = append(all, sortedRows(p.Rows)...)
-			}
-			sameRows(t, "sorted parts", all, sortedRows(l))
+			testSortedParts(t, parts, l)
 		}
 	}
 }
@@ -263,11 +278,7 @@ func TestPromise2RangesOfCutsOf(t *testing.T) {
 			if !ok || len(parts) != len(cuts)+1 {
 				t.Fatal(parts, ok)
 			}
-			var all []impl.Row
-			for _, p := range parts {
-				all = append(all, sortedRows(p.Rows)...)
-			}
-			sameRows(t, "sorted parts", all, sortedRows(l))
+			testSortedParts(t, parts, l)
 		}
 	}
 }

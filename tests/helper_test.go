@@ -91,7 +91,10 @@ func sameRows(t *testing.T, what string, got []impl.Row, want []impl.Row) {
 
 // withSpare returns the rows with marked spare capacity behind them, and a check that neither was written to.
 func withSpare(l []impl.Row) ([]impl.Row, func(t *testing.T)) {
-	mark := impl.Row{Key: "spare", Tag: 3, Val: "spare"}
+	return withMarks(l, impl.Row{Key: "spare", Tag: 3, Val: "spare"})
+}
+
+func withMarks[T comparable](l []T, mark T) ([]T, func(t *testing.T)) {
 	memory := append(slices.Clone(l), mark, mark, mark)
 	before := slices.Clone(memory)
 	return memory[:len(l)], func(t *testing.T) {
